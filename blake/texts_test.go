@@ -1,0 +1,95 @@
+package blake_test
+
+// published are sums that stand in the document, in RFC 7693, and in what is published
+// of BLAKE2s.
+func published() []struct{ text, sum string } {
+	return []struct{ text, sum string }{
+		{"", "69217a30 79908094 e11121d0 42354a7c 1f55b648 2ca1a51e 1b250dfd 1ed0eef9"},
+		{"abc", "508c5e8c 327c14e2 e1a72ba3 4eeb452f 37458b20 9ed63a29 4d999b4c 86675982"},
+		{"The quick brown fox jumps over the lazy dog", "606beeec 743ccbef f6cbcdf5 d5302aa8 55c256c2 9b88c8ed 331ea1a6 bf3c8812"},
+	}
+}
+
+// counted is a count of bytes, and their sum.
+type counted struct {
+	count int
+	sum   string
+}
+
+// Sums that were worked out apart from the program, by another one: of bytes that
+// count from 0 to 250, again and again,
+func apart() []counted {
+	return []counted{
+		{1, "e34d74db af4ff4c6 abd871cc 220451d2 ea264884 6c7757fb aac82fe5 1ad64bea"},
+		{2, "ddad9ab1 5dac4549 ba42f49d 262496be f6c0bae1 dd342a88 08f8ea26 7c6e210c"},
+		{3, "e8f91c6e f232a041 452ab0e1 49070cdd 7dd1769e 75b3a592 1be37876 c45c9900"},
+		{4, "0cc70e00 348b86ba 2944d0c3 2038b25c 55584f90 df2304f5 5fa332af 5fb01e20"},
+		{5, "ec196419 1087a4fe 9df1c795 342a02ff c191a5b2 51764856 ae5b8b57 69f0c6cd"},
+		{8, "c7e887b5 46623635 e93e0495 598f1726 821996c2 377705b9 3a1f636f 872bfa2d"},
+		{31, "aba4ad9b 480b9df3 d08ca5e8 7b0c2440 d4e4ea21 224c2eb4 2cbae469 d089b931"},
+		{32, "05825607 d7fdf2d8 2ef4c3c8 c2aea961 ad98d60e dff7d018 983e2120 4c0d93d1"},
+		{33, "a742f8b6 af82d8a6 ca2357c5 f1cf91de fbd06626 7d75c048 b3523665 85025962"},
+		{55, "f4495470 f226c8c2 14be08fd fad4bc4a 2a9dbea9 136a210d f0d4b649 29e6fc14"},
+		{56, "e290dd27 0b467f34 ab1c002d 340fa016 257ff19e 5833fdbb f2cb401c 3b2817de"},
+		{63, "e57cb794 87dd5790 2432b250 733813bd 96a84efc e59f650f ac26e669 6aefafc3"},
+		{64, "56f34e8b 96557e90 c1f24b52 d0c89d51 086acf1b 00f634cf 1dde9233 b8eaaa3e"},
+		{65, "1b53ee94 aaf34e4b 159d48de 352c7f06 61d0a40e dff95a0b 1639b409 0e974472"},
+		{66, "05705e2a 81757c14 bd383ea9 8dda544e b10e6bc0 7bae435e 2518dbe1 33525375"},
+		{100, "81dcc3a5 05eace3f 879d8f70 2776770f 9df50e52 1d1428a8 5daf04f9 ad2150e0"},
+		{127, "f18417b3 9d617ab1 c18fdf91 ebd0fc6d 5516bb34 cf393640 37bce81f a04cecb1"},
+		{128, "1fa877de 67259d19 863a2a34 bcc6962a 2b25fcbf 5cbecd7e de8f1fa3 6688a796"},
+		{129, "5bd169e6 7c82c2c2 e98ef700 8bdf261f 2ddf30b1 c00f9e7f 275bb3e8 a28dc9a2"},
+		{130, "c80abeeb b669ad5d eeb5f5ec 8ea6b7a0 5ddf7d31 ec4c0a2e e20b0b98 caec6746"},
+		{191, "d120b5ef 6d57ebf0 6eaf96bc 933c967b 16cbe6e2 bf00741c 30aa1c54 ba64801f"},
+		{192, "58d212ad 6f58aef0 f80116b4 41e57f61 95bfef26 b61463ed ec1183cd b04fe76d"},
+		{193, "b8836f51 d1e29bdf dba32556 5360268b 8fad6274 73edecef 7eaefee8 37c74003"},
+		{200, "6d244e1a 06ce4ef5 78dd0f63 aff09367 06735119 ca9c8d22 d86c8014 14ab9741"},
+		{251, "53e7b27e a59c2f6d bb50769e 43554df3 5af89f48 22d0466b 007dd6f6 deafff02"},
+		{252, "c4278977 85c3542c 234e8481 c9b85c76 8edbd2da 8ae3761a 6f0329fa a28f5bfb"},
+		{255, "d9677264 9409d6df 967e34e7 aee39020 33b81d7d 44f1943e 0c0a5f80 57f774b8"},
+		{256, "6b58271b 163ae846 666204a7 8e4dc65a b390d510 ab109142 2cca4357 7252b016"},
+		{257, "e53360e4 f163abf9 d15a2baa 557cd68e 803cbf56 be042cf0 614352b1 2ab07995"},
+		{1000, "1c067a5e 746fb0f6 734efac9 a8cdb0e1 1061f007 7f255184 365c6901 15392501"},
+		{4096, "75320057 9e437725 18340d84 db0958f3 43329f84 493e7c69 fcf195d4 060cb9c5"},
+		{10000, "ccc0841d d7c39f8f e87956a6 9f975c51 c7fc2e02 1e0efc9f 566e8306 0c4df5ce"},
+		{65535, "103ee39c 432c88c0 fbffad3c 85b0c30b 75efb7e8 c2309f2f b5de9c7a 6968e3c9"},
+		{65536, "b274d4c4 98002175 5013dbeb 61d22526 8f623899 8ba08c25 df654277 fb4cbff0"},
+		{65537, "71a22f1b e6dd5b1a 0cd9055f 8ee17fb3 6762c550 61f119e4 1ebca0ab 9866502f"},
+		{100000, "10c2558d 16898bc4 00b03527 d108e5a9 bd0af545 19981c24 e9e296c3 58b34f72"},
+		{262144, "b061ad70 1d3d43c2 165bdfec cf7df85f bd3d75f5 e4556beb 45824f97 a7ab6328"},
+		{300000, "c6f1d774 38ef70ed 9cbc4f34 d610ca5f e32ebae7 b0df5b9d 38fc19c5 bb732582"},
+	}
+}
+
+// of bytes of all ones,
+func ones() []counted {
+	return []counted{
+		{1, "8a1ef126 b4e28670 3744a80b 2f414be7 00cc9302 3e7bfc86 88b79b54 931abd27"},
+		{4, "ee9e6dac a955613b 01981cdb 8928c1f1 db906cd5 e28da658 1e57fb49 615edef2"},
+		{63, "05daad38 9157a42c c113caf1 ac125542 a97d2484 1dff958d 5587fcc7 8b5216f9"},
+		{64, "ee92d9d7 65aac654 bc062ea8 e24456bb 1a73c866 43bdac7e c4ff2efd 81721063"},
+		{65, "2cdc288f 2a3d1a13 4cfcf796 f235c139 31f9b01b 43074e05 2f98d501 2a603ad6"},
+		{127, "5e8cc60d 109137a9 9390bd44 dda6fe56 516cb8e5 84b82512 03fe0c80 6f7204ac"},
+		{128, "20dfe3ad 1ecfd9d3 e9e9f076 2349556b 1f4e7970 1719cfb4 933e42fd c6542df0"},
+		{129, "e514f785 f95386f3 c8b70282 f576adf0 52e8045b 5f59f123 c1e2fc95 7d81ae10"},
+		{200, "7f77c7f8 84380662 19561c44 21ae8de7 4685631e 3fc94b25 78868cbf 18619185"},
+		{65536, "b25011d2 c39f60dd 8041d562 09ee5fe1 605ad2f9 59574750 7206a642 ca85b8d7"},
+		{300000, "df781272 33c2f167 2bad0725 8c63c4fb 0158bf62 d98daf31 1c59c67b 4d786b07"},
+	}
+}
+
+// and of bytes 0.
+func zeros() []counted {
+	return []counted{
+		{1, "e34d74db af4ff4c6 abd871cc 220451d2 ea264884 6c7757fb aac82fe5 1ad64bea"},
+		{63, "d962856f 3fcfaac8 0a847220 12c38da6 8cce6b92 4a397d5a 3db009ba befdee61"},
+		{64, "ae09db7c d54f42b4 90ef09b6 bc541af6 88e4959b b8c53f35 9a6f56e3 8ab454a3"},
+		{65, "857328bf 990b0092 2782d3e8 1c6054c2 5d3375d3 86c7424a be3e01d7 9041046c"},
+		{127, "301830ab 384e3c00 d5295e83 5228dfb6 8ff1a68e 73c20a92 da27353d 7f654852"},
+		{128, "4e420520 b981ce7b dbf4ce2c 4dbadb94 50079b7d eb9737b5 232957d3 23f801cb"},
+		{129, "7ca37007 62f3e0db 5d2f32e7 82efa249 295ad56f ce3cc1ea c8170efc 713b7fbf"},
+		{200, "3c94fdf9 c93a0d2f 4e63bfd0 e4a181df b7ad5dc6 e1e479cf 9f8f1cb2 b22d93ae"},
+		{65536, "68030174 26bf90e3 be35b660 779bf2e1 7b183a76 1d5fb34e f5d8371b 9918d1ab"},
+		{300000, "8bd605c2 7f765a30 24e3b4f2 457799c7 4b0ebabb 03647daa 4ccec983 a7252dcc"},
+	}
+}
