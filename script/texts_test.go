@@ -1,0 +1,221 @@
+package script_test
+
+import "marlinspike/api"
+
+// told is what was drawn behind a label and absorptions of so many bytes that count:
+// the first three challenges, and the hundredth.
+type told struct {
+	label  int
+	counts []int
+	draws  [4]string
+}
+
+// tried is a label, how many are tried for its first challenge, and that.
+type tried struct {
+	label string
+	tries int
+	draw  string
+}
+
+// Both were worked out apart from the program, by another one.
+func apart() []told {
+	return []told{
+		{0, nil, [4]string{
+			"12411816 549c3520 fb7e4c5a 098a4a9d 07c2684d 36b11749 a28f16d5 d9879d50",
+			"11469b9d 42fc3769 882fbd6b 66e5954f fdf7d45a f920a721 f27c2cb5 38213c04",
+			"0611c6d2 555685cd 9e0efe4e 41b88727 4fb2d3a4 07be986d abc39a29 b073b4a8",
+			"0e92ac24 d2ff05de c1c6c66c d040f586 203ce5ad 7641f6d8 00769032 2a39993c",
+		}},
+		{0, []int{0}, [4]string{
+			"090d137b 88e4c2a7 307e379c 1e46a8d8 49664ab7 53f0d20b f833c9dd b6c5a2af",
+			"05e670f6 1892bc24 9c501a5b 68060c31 7d78d27c 62f1d999 45627cd3 571762ed",
+			"0b0412ce ea787bd9 285aec55 4d9a4b9e b70c6f27 97705ce6 20efbed1 9c3806f4",
+			"0319ff63 70a1f6a7 84ad53b9 e19d6197 87b42dc4 1c5ce2dd 2c852e5e d167a9c1",
+		}},
+		{0, []int{0, 0}, [4]string{
+			"04b689ab 1153d5b2 e2714932 6306479b 05b15e1e 62d81bba 5250bce4 11859d86",
+			"0b7f2f6a d3253e4e a117cafc 046afa82 2d9b8867 ae25308c 3ebff240 7880f55f",
+			"0ff4ad87 e2817742 468e8ba4 06528105 d43ff6dc 9eb8fe56 bbfa7d85 e2e89fea",
+			"091e2c2e d3fcb065 b7f45e38 61f80b9a 2173b509 64df87bd ca6f40bd cd2fe35c",
+		}},
+		{0, []int{1}, [4]string{
+			"091c744a 3c9a2cf5 cfec85c3 77f65cdc 1298a3e1 2b75d803 21997d19 316da919",
+			"044b0dd8 6f9e4313 f9324eb3 977d2fb9 5ddcd156 ccb1ebbb 1304b234 c82baa08",
+			"032583a9 3d7e506b 1a65a1b3 622201ef c6fba51c 003f0e3e 1124db84 022ac160",
+			"0fc5ddec bca6303f be508464 22999a88 45fdd6ae d95b4322 bd95a404 6325217c",
+		}},
+		{1, nil, [4]string{
+			"0822a743 8c4bb39e 2bebcab3 c9d3c44a 2eced3e6 37809518 d9a7d962 876a5dff",
+			"089441ea 92a4cd8f ba93c982 b71bbf69 420b7bcc f1297cbd 6417500c b0812b21",
+			"069dac7d 0cdc2769 352aaf97 371b5227 20acbc7e ee0d7f3f e78776be fefc6ff1",
+			"01f355c5 f576d5fe cece27e0 7a7e5f67 9ae87b76 a1416f84 aeb1ab62 9b7a5b69",
+		}},
+		{3, nil, [4]string{
+			"0893f060 55f8a788 66f74fff e3dd7624 9f12d223 a6d4256e e731abd4 ff8c9d4f",
+			"0324bebd f98f0f7b 6979a8f5 57fb8f7d 3c8b8813 ebaea3f5 e1128a09 14447963",
+			"0368d1d7 54407b4e b8ffd2a0 6858d3a2 bc2e207e 815a2fd5 6f583767 9e4d8820",
+			"0e6b4827 e2a01195 50dfa866 2e951e92 f4442ee3 7fb1b66c 0a9e17dd c3cdfdde",
+		}},
+		{62, nil, [4]string{
+			"0d30e74d dd4e8214 f6acca89 9452c2bb d1539812 1a01505f 7bedf1f7 a3edc6b3",
+			"0d88a0ce 3332ec6a c0e6ef5f 1af7b2cd ac4cf061 a61dd484 05701485 e4d2d434",
+			"0702ab8c c804a9c7 829f1a2d 84d3f5b5 ae88cda8 650d4719 57ce541b f4de5ae6",
+			"0485c74f cbd9c5c8 3693e235 560d4057 72e0a2b9 a47a240f f8a7c9a2 88b0673d",
+		}},
+		{63, nil, [4]string{
+			"0ea81352 55e650f6 6528f483 202290e8 3480e313 bd72daf9 641f9c01 5e75f650",
+			"0179ca1e dd4cc59e 53cc0c67 4691c5c1 cbe7a062 bf7693a9 90f680f2 df07f369",
+			"110780eb e25d7ceb 8054e78e ba52d990 371fb182 8e801b20 3ce83799 eca6927f",
+			"0ad8bbbb 32706a88 cdf46da4 229b0a14 62b51f1c d4930aa7 52cbefe1 e1358c1b",
+		}},
+		{64, nil, [4]string{
+			"09b1c709 4a5f5707 9f24fdde e6c43cec de1624d3 25f1ef78 758935bb d323bc4a",
+			"12491a4d 671de1b6 2c7f5d81 5d08e83c 64fcce85 ccbdeb46 dbef4122 7fdffb6a",
+			"06174499 3dea95b5 27840155 4dfa26eb 58511373 15a1c814 45ce35b7 18fe5aca",
+			"09eb2306 af922fe3 dda1f013 8ba63135 21a3ae9c eaf6a7b1 ee9a3fa6 4cc9652c",
+		}},
+		{65, nil, [4]string{
+			"0997bab4 266d5aed a974dd58 9dd8c5a8 31408b70 1987c6cd 442b859d 5e324ee3",
+			"00223667 92996929 43489b5b b7fee974 ba9d77d7 6a1305b6 a246ed7e feaa976d",
+			"0ff45b8e 5bf604eb 8226f9b3 96bdd1fc 0da5249c 3a4caab5 bef7e1d3 46f4e66d",
+			"0d12baf6 77470f3d c19a001b 97eb737a 9638e179 4bd6b02a b8fa7b70 cba7eee1",
+		}},
+		{300, nil, [4]string{
+			"122d10ff ce9b6573 a3925079 a14401b4 fb666e50 13d5ffd5 6060bd18 14518b66",
+			"09048e66 6619f943 e00f4ff7 7a9d44e3 939b3c4c c139f5ed 39b9cd40 eb314cd0",
+			"00f83156 bbca82d5 2d34e228 8e5d4b06 8740ad12 9afe7cbb f7ae46e4 94da4682",
+			"0b84cbd3 cb32ca3a e42d2cc4 24d0c934 be960af9 f8955c12 f7ce197f 12cc8dc6",
+		}},
+		{api.MaxText - 1, nil, [4]string{
+			"0da118a8 c1d39ab9 c3f5dafa ce654f3c 4d8633bb c31ff962 72a78def cf5ac8a6",
+			"0db037d6 513efd88 3f4a3896 90763cfb 9662ceae 24e97fc3 c590708d b1d11adc",
+			"0b6295e2 adc2f98e e16f5f44 21a931d5 a4f341df e67df3ea 13575f31 0fe5c87f",
+			"08bef00d fe0c76f7 cad7ae27 317aae3b 4083fe06 5bf8709f a7df3dfd 07e226a3",
+		}},
+		{api.MaxText, nil, [4]string{
+			"095476c7 7b2118b5 9a425312 87b6e0c0 c3f0c04d a4302ce6 8a1861b8 c3e0ed0e",
+			"0d7a4bf1 5b581de8 da7c6193 0f91c01c 67736f80 64480a93 198ed940 5431662a",
+			"10838e00 9f93acf4 38cf5bce a44d480a 0e4e83b1 d512767b c9e2260e 782320c0",
+			"0f5d31db 5afcb438 97fba241 766550b2 31f4334d 0306a815 b024c3f3 00786f59",
+		}},
+		{5, []int{22}, [4]string{
+			"04b8a6bd e0b7f206 74442c16 9d6c4b97 a7cdaaec abf90ea5 5a0fb822 41deba8b",
+			"01b9e25b cbab3a10 b5c3a47c 5ef8679a 99422df6 4ba388c4 7e9b50f9 259313e6",
+			"0b9eeb5d 1bda31fd e68f264f 36ade7b3 750f7a5b 7ac8c12b 85ea0ad4 3bfc15c7",
+			"05362fd8 446c8110 08312478 87f8c1cf 08609190 8a624da3 9895f97c 78e68a4b",
+		}},
+		{5, []int{23}, [4]string{
+			"03324257 25cb4dba 8294d0b0 eb089b81 304a54ed 107c7696 c1fb9cc1 6d7bb34b",
+			"09209c42 24a93114 b85ca4e6 426260d9 be038225 aa52b1c5 0e2d43b1 2176b87e",
+			"03f1c176 b3d1aa55 35db9b57 97cf5cfc 7c139c6f 7b7c5604 8d12c026 2f0066a3",
+			"00bf6f08 c16f6b0d 57961756 9c3cae3a 602fb2cc 4633781b bf524003 efdd9b96",
+		}},
+		{5, []int{24}, [4]string{
+			"09153460 e5f78be5 d2a4f5cc b18d8042 8604c5ac 71021f1b dd9ed559 11f84a7e",
+			"03dab864 81d42cab 0fae3f90 2ea8cd8d e02f2419 532c708c a5ad71e5 aafe7626",
+			"1202fa6a 21bb7209 4549eb4a 1e9e0dab 435b8883 b881d85f 1fb005f3 922bc6c3",
+			"0ac74da3 52581476 9a870a87 4aa111cb d5ef1aa8 25a6943c cc1a8e0f 91f63ebd",
+		}},
+		{5, []int{87}, [4]string{
+			"0b1db717 6c4a8d12 49a8e8fb baf25cd2 3586a6a1 ec4e2984 f3957173 d3754ee3",
+			"06f56829 6a3f76a1 f032037b dc6cdfc3 0ceeb6bc da87a9c1 164488c8 d1797797",
+			"0357d20d 186e0487 6f2349f3 cf7df200 bb8ccf1e a9b52afa 398cc1af a81cbe6d",
+			"0f312219 483b09a6 69572692 f4fa9b4c cc3d23dc b24ca267 3b26941f b72049b8",
+		}},
+		{5, []int{88}, [4]string{
+			"0e8f70c7 13c7f2c2 a6c76db7 f229e81f bd093ea3 5cf0debb 7f35418e 32e8e2a9",
+			"042753d0 9c151442 078e71ad 754b249d c259c522 1afb1fd3 806070ad b20944f3",
+			"100d6be7 8ae965ee 4b039d6d 1083035d 3121a926 1ac3b3cd 8f2bd072 afea88de",
+			"0c8a3f61 86e08bd7 1df3e01c 557311b4 7ecad50b b32aa2b2 1c4f624e 713d2462",
+		}},
+		{5, []int{255}, [4]string{
+			"0b7bccea 08b9e782 738a6d61 d5d8026a 79b7fa4a 17ecf8fd c4d729b6 dbbc6b40",
+			"0d8af246 cb5b48ce fa9ed1db ed71036a 0bee4e63 852dff41 0ef4218d 4e651875",
+			"0a692b72 1f4cb5d3 9f97e037 7f096923 eed6f9f3 7440f486 7617f67b 1361b3c2",
+			"1111f852 28aa1036 df8ec84a 1b6469f3 56d9050e 3facfcc4 751b9509 a443a841",
+		}},
+		{5, []int{256}, [4]string{
+			"00e8eb42 083e38ea 3b06f09a 86771db0 d8bc6499 8b67569d 61044ebc fb9b2a0b",
+			"0841eb87 57d8811a 4b0dcad0 aae1be40 feb08047 8ea909be 52a4c960 993e4af0",
+			"11393a7b 6a23d2d9 e4dc62c9 91c758d4 97c0217c a186214b 2431d766 2777bd44",
+			"0ede877b d9aa70b3 7c6afcb3 b859d833 196fe4af 48e6b3c9 8e0344ef 9d19201a",
+		}},
+		{5, []int{257}, [4]string{
+			"04878793 969f1566 5cccb3a7 ac556b02 e8166738 c0cb6502 04363464 c04d2071",
+			"127b440b 99d83d74 11b30999 69075dbc 0548279e b723be2d 77c34da5 cd463a55",
+			"0201a3e8 6568a8a2 814dacaa 331280ab 2186fbf3 7ce47a91 1404ea0e 3e125d69",
+			"007ae501 85d50b80 6c066d15 d3a48e14 bca4923f 978dc121 cf46c849 f13155be",
+		}},
+		{5, []int{3, 4}, [4]string{
+			"109885ac 1a319c9d 812ca650 5233be70 97432ac3 a5433aab d4c1ff8b 668b4eb3",
+			"015da579 76f0001f 4ed3bb73 93ca422e 55ae03a0 e3a79069 f20d5fb1 612c10d8",
+			"0e3a970d 3315a96a 85b385f9 552c5cea 8eccf7f5 e3f72870 1e5fbb9d 633ef411",
+			"01664955 feacb695 39c321e0 4f4a5f76 030263fd aa97b0c9 6a5e4d9c e12ee674",
+		}},
+		{5, []int{7}, [4]string{
+			"104cec02 283b2518 2ff3aea5 4c275ef7 271d89f2 910cbc28 919a8495 4c0c1a69",
+			"056f0407 b9696d75 401b7aea 3ed39b2c 2d851f88 74a7a2e5 f8cecbfe 33f8443d",
+			"07d6c246 25bb9d9d 09fb4505 e90fd3ce af6fd811 5191d147 a7bff37a c9ea320c",
+			"0b40cfd7 8073d0c0 cb29dc46 18071365 17fb1e5d 0789080e 1ec4ff39 5b88efa5",
+		}},
+		{5, []int{65535}, [4]string{
+			"09da720f de909039 f7f9a6fd 2bfbe2c0 1d132129 e3012395 83d4ee73 2032c5ec",
+			"0fecd16f 03f3a130 2890a2fb da064d0a 63d0d2dd 36ff52ee 156b15fe 6cbca423",
+			"0a0366e5 423f13c4 738295c6 bd32a04c e1325edc f9fa3dfe e0f239bb d9eb0d6c",
+			"0d88b62f 4a087471 4d3e51c7 098758c9 09b9764d 5818fd0e 044ad1c6 3e899ca3",
+		}},
+		{5, []int{65536}, [4]string{
+			"07938267 cb2cd88f e9096302 84415f77 cf9e826b 763e1501 20585cfa 10f279dd",
+			"09c2e688 87317811 1210295a 9dcabadb 95db6b49 e66327bd aa2ae331 ff0506e5",
+			"0ebe03bb b67111c6 b087f165 b9bacd67 9ab5c26c 4f78c8a2 02bf5680 708a72f1",
+			"01b421bf 68b8d784 ae14a843 49ca1863 22dc507b e4b561b3 76dd8006 9bcccaba",
+		}},
+		{5, []int{api.MaxText - 1}, [4]string{
+			"002c1619 ddfa32bb 03131d71 0a99e101 76c0adbe eefd04d3 3d803a99 093c9c94",
+			"0c006da9 2bd234a4 90d158f2 6f41d705 7c6fecaa 4ab1f9ad fdef21a6 dcfdc62f",
+			"0a94205b ca9e84bd bc1bf5fe 6c3fd005 06ce68f8 38a2a3e3 9691a289 57d52cae",
+			"0897ac49 d8908eeb 60604632 aef4a1eb bd053a74 ea7e2245 ca27af98 277c760e",
+		}},
+		{5, []int{api.MaxText}, [4]string{
+			"0c95a503 bfdd363e 9df1e3f1 f9d37c65 3591c535 061fab7f d69b1707 a77fe25f",
+			"0ccaebba cf63332a af3f5643 ef538094 ee4dc285 6cf311c8 c0fdb786 125b24a6",
+			"000f8e92 7890d353 01abe0a0 b041fe2b 66855b7e 279c7f2d 9cce840f cc450ed9",
+			"0668479c ff3f0a03 cd0ae82d 6c1fe11a a6a5f923 5444b188 f5093a1c 984864c1",
+		}},
+		{api.MaxText, []int{api.MaxText, api.MaxText, 0}, [4]string{
+			"0463a680 b31e3115 d142a9c6 0aa1a2a5 8e7144be 710808ec 7908f617 1a9dec54",
+			"10dcff89 beda392c 6319e92b 230c25ba c8369bec 943806b0 121c1431 ccbfd52c",
+			"08e22d06 d300d797 a2d64c46 42530d1a 8d6db41a 2dbdc367 d31b4c37 33664e88",
+			"0c1c2d32 c0e9e010 025a86ed e0affee3 c1b32e76 f990410e f0bfcb15 8bd8450d",
+		}},
+		{7, []int{1, 2, 3, 4, 5, 6, 7, 8, 9, 10}, [4]string{
+			"010f39ad f82ef212 6e387435 7a7f2285 5f19d0b0 43fcb40d 8535d7cb e2508f02",
+			"07091911 54636ee0 10bf0fd8 746382d9 dd999bc2 8bfb3984 b2e180b8 d7da6216",
+			"07b62c8d 40d8c341 f17ec9e7 2ec9ec18 4c52e326 871ce1c3 0d4b9808 f315be61",
+			"1004d8dc fb713ea5 effd9456 a74d95ad 151b5374 7839288d 2f873b99 726d011d",
+		}},
+	}
+}
+
+func triesApart() []tried {
+	return []tried{
+		{"0", 1, "0627c105 127d641a c2207128 bccf962d 613b80ad 4b1873a4 ac33ba16 16a290e9"},
+		{"1", 2, "0f7e121c 30c32788 37ee9c18 f8c8572c 51ae2e00 1127e669 e4e3efce 019e0848"},
+		{"6", 3, "040f1506 502cd525 ff4ed1df 63dc0164 fc0758cf 44717de0 c7ad0eaa 8ebfb72d"},
+		{"4", 4, "11ef0198 7fa61b7e 7b238ca7 03d99039 cbf5111a e9db3e95 2ae1dc1c 7503de24"},
+		{"2", 5, "0377f17e 2f9640af cc6e4e40 0528fcde f1006bdc e5139447 b54131ae ef0eb4fb"},
+		{"67", 6, "0b6bad8c fae47073 0b081d72 aebb56c9 05416853 b8e8af24 57fd26a0 23cb3de4"},
+		{"496", 7, "0a0d9b8f 378af8e5 aa2da32f 194c5882 ebd1f271 0ad0501c 60285bc8 9458ee78"},
+		{"1316", 8, "1161f918 62a6097d d779a52b ab76fb9e 3c00663f 574e68b5 2e506fc7 b186dfcc"},
+		{"5637", 9, "103f1dba a60f3d2d 9d1d9417 7e850f26 872c120e 5745214d d6206d90 9a79f285"},
+		{"14489", 10, "1245c8d1 ce3b392a 7d6324a5 d4cf0062 6f0d0919 d0d83d80 ce8f9d35 57038466"},
+		{"10046", 11, "07abdcf9 8138c4ad 53710042 8ab64fb3 369309b9 5bd82f71 5b9374c5 65c23dda"},
+		{"7867", 12, "0765c6b9 c3121b7a 19c8bdc2 f551a899 87a3ac12 2fc6dfee b933cd31 21b8fad7"},
+		{"20492", 13, "099d2657 659fb70d 30f6c685 fc712720 6e056476 8c8daa95 01b783f2 b9352370"},
+		{"136443", 14, "0057bbbf 3b7bf210 11d63a93 681585ef f4378cf8 f6ae8154 288b2053 509840a6"},
+		{"121899", 15, "04cfc220 a3aaa18a 0ac4069f a89fc8f2 b6a3850b 836b9567 7cdf7539 231dc0df"},
+		{"665660", 16, "10350c25 cf414a04 aa45d11b 61860d34 138cbf8b d6dc6ff5 71a78aef bcc1b839"},
+		{"291919", 17, "0b1bcdba 1620038b b3490db1 02923942 8f6dbed9 deb46f5a 95dc4bbd 32ffb802"},
+		{"4279116", 18, "04a42d05 2f8fe961 efedafa4 72f820de dd89bf40 e0159c1d 260ee18f 663bf9d1"},
+	}
+}
