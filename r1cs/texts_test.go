@@ -1,0 +1,158 @@
+package r1cs_test
+
+import (
+	"crypto/sha256"
+	"encoding/hex"
+	"math/big"
+	"slices"
+
+	"marlinspike/api"
+)
+
+// What follows was worked out apart from the program, by the document's words: by
+// numbers of any length, from X on.
+
+// The bytes of square and cube, and of a circuit whose scalars are r - 1, 2^248 and
+// another one.
+const (
+	squareText = "000100030002000100010001000000020000000000000000000000000000000000000000000000000000000000000001000000020000000000000000000000000000000000000000000000000000000000000001000000010000000000000000000000000000000000000000000000000000000000000001"
+	cubeText   = "000300050002000500030003000000020000000000000000000000000000000000000000000000000000000000000001000100030000000000000000000000000000000000000000000000000000000000000001000200000000000000000000000000000000000000000000000000000000000000000005000200020000000000000000000000000000000000000000000000000000000000000001000200040000000000000000000000000000000000000000000000000000000000000001000000020000000000000000000000000000000000000000000000000000000000000001000100020000000000000000000000000000000000000000000000000000000000000001000200000000000000000000000000000000000000000000000000000000000000000001000000030000000000000000000000000000000000000000000000000000000000000001000100040000000000000000000000000000000000000000000000000000000000000001000200010000000000000000000000000000000000000000000000000000000000000001"
+	oddText    = "0002040000070002000000010000000012ab655e9a2ca55660b44d1e5c37b00159aa76fed00000010a11800000000000000003ff0100000000000000000000000000000000000000000000000000000000000000000102010123456789abcdef0fedcba98765432100112233445566778899aabbccddeeff"
+)
+
+// odd is the circuit of oddText.
+func odd() api.Circuit {
+	other, _ := new(big.Int).SetString("123456789abcdef0fedcba98765432100112233445566778899aabbccddeeff", 16)
+	return api.Circuit{
+		Rows: 2, Cols: 1024, Inputs: 7,
+		A: []api.Entry{at(0, 0, minus(1)), at(0, 1023, new(big.Int).Lsh(whole(1), 248))},
+		C: []api.Entry{at(1, 513, other)},
+	}
+}
+
+// ruled is a circuit of a sketch: of a matrix of n entries the j-th one is at the place
+// j Rows Cols / n, if places are counted row by row, and a power of 2, 3, 5, by matrix,
+// by 37 (j + 1).
+func ruled(x sketch) api.Circuit {
+	c := api.Circuit{Rows: uint32(x.rows), Cols: uint32(x.cols), Inputs: uint32(x.inputs)}
+	for i, m := range matrices(&c) {
+		count := []int{x.a, x.b, x.c}[i]
+		for j := range count {
+			place := j * x.rows * x.cols / count
+			val := raised(whole([]int64{2, 3, 5}[i]), 37*(j+1))
+			*m = append(*m, at(place/x.cols, place%x.cols, val))
+		}
+	}
+	return c
+}
+
+// ruledBy are a sketch's so many numbers: powers of 7 by 0, 41, 82, ..
+func ruledBy(x sketch) (l []*big.Int) {
+	for j := range x.cols {
+		l = append(l, raised(whole(7), 41*j))
+	}
+	return l
+}
+
+// ruledSolved is a ruled circuit, but for C, which has just what its numbers need to
+// satisfy it, in the first column.
+func ruledSolved(x sketch) api.Circuit {
+	c, z := ruled(x), ruledBy(x)
+	a, b := sums(c.A, x.rows, z), sums(c.B, x.rows, z)
+	c.C = nil
+	for i := range a {
+		if k := times(a[i], b[i]); k.Sign() != 0 {
+			c.C = append(c.C, at(i, 0, k))
+		}
+	}
+	return c
+}
+
+// digest is SHA-256's of bytes, which are too many to be told.
+func digest(b []byte) string {
+	s := sha256.Sum256(b)
+	return hex.EncodeToString(s[:])
+}
+
+// digestOf is that of numbers, of 32 bytes each.
+func digestOf(l []*big.Int) string {
+	return digest(slices.Concat(all(l, func(k *big.Int) []byte { return k.FillBytes(make([]byte, 32)) })...))
+}
+
+// apart is a sketch; how many rows of the ruled circuit do not hold of its numbers; its
+// bytes; all sums, and the last row's, of A, B, C; and the bytes of the solved one.
+type apart struct {
+	sketch
+	broken     int
+	text       string
+	sums, last []string
+	solved     string
+}
+
+func allApart() []apart {
+	return []apart{
+		{
+			sketch{1, 1, 1, 1, 1, 1}, 1,
+			"90cb07a0cb056419b5115a56e02a004719ef0d21455f09aa2ffbad0801aa30d0",
+			[]string{"b600ccfec9ddae068109c82b0b7ba3632501857eb23ca7860fd26f3bc1335697", "eedb31183d50ffcfb5961caca30648590ffcb80ceb4ab0f27194cd60c3c1a62d", "90460e79f15933dfde5b3e5aea57138d636d0ba75a4437138d96183a58f4b1ef"},
+			[]string{"2000000000", "63fbad3a2b55473", "3c2f7086aed236c807a1b5"},
+			"e453dd9d64b2c386c014686be8d25bc007b8766880987fda8f473b9bedeee197",
+		},
+		{
+			sketch{1, 3, 2, 2, 3, 1}, 1,
+			"8b21992ed4e5ff5eeb9392af5363aeac4ef5a56e1bc1fedf8f0bf150dba9600b",
+			[]string{"5ff2f946021a62e2bb93903f5833eedc3168f341812d02cd05d64cd13d1c5aef", "e8adca8e7a649da12a95903a133d48c683a9a240cbc7cda9e93369eb75104ae1", "90460e79f15933dfde5b3e5aea57138d636d0ba75a4437138d96183a58f4b1ef"},
+			[]string{"22556ad264d10691cb5ba712d0711c000000002000000000", "8f5d6ea94f8b179ea8c9bd757b23c5c37bf4ec711d4f03e59753df5dc3ca697", "3c2f7086aed236c807a1b5"},
+			"bfdc111a69511663bee834a3045a451959fce62a0f3d60f1112655597952dfba",
+		},
+		{
+			sketch{4, 5, 2, 7, 9, 3}, 4,
+			"ef1b98c1415e58781dae0154d7dc548be15df551669963ae724ff8e9a02cccf5",
+			[]string{"f762abbdc4b397e50569df81f8362d5acbad9051d8f955bfdf16f02ed816ecec", "0dcfdde422fb970d2554dba17a2ed3064b5f43e41058e83f4e80474bd3042346", "65d3e9221bab76f6474d1a06783157ced1061feb9b85e27d02465c88c5380ebb"},
+			[]string{"3ea76f8e110757c878ece2205f84f784309dce995726ecfe34ab3175ce942b8", "102f892b3768c76398723d5bd8df207383f17d0776b57b755cb4b8887a56c708", "0"},
+			"4ef12c6ba0c1f6c66c4372cc14a8913345a045f692ad886e599f885f66ec514d",
+		},
+		{
+			sketch{3, 8, 8, 0, 4, 24}, 3,
+			"6f026f9b90eaa51a1e68a2036cb1a9b7dad502cadd3a856d5c28295adc2afa01",
+			[]string{"2ea9ab9198d1638007400cd2c3bef1cc745b864b76011a0e1bc52180ac6452d4", "41b9afdfa411b720b22ffcefa3d1f0883c572098b937a18fb1641123947a5fb0", "c43279cdcb460f1bcd3aaebecedb1642e250a58861705fd0e1fabdafe4ff64a7"},
+			[]string{"0", "ab3d5c1262d798e69fb4f723814839237a6966cf8e0b815a94357e0ed50e0f7", "b07d10dcf011a0a50e0858f7885c5184e01c63679d177e467f5f07929f3929f"},
+			"6ec72d8d7daa025ddebb389b80ce4a604cd5763b99100886d0ec844da851ac7d",
+		},
+		{
+			sketch{6, 2, 1, 12, 0, 5}, 5,
+			"e912ab08f908da66e5277862a402073e7006f499f4cfd34ebc2d684cd3a397df",
+			[]string{"1332848072a8b48143f29e4d27ea502aa32595eac7402ea03106081530852c21", "5d89f056865052bcb89c910d2d62872e029fb273c3db03f8968a52a41593c1b5", "5c617bfadc6117f9093df2b15d843462798f984277e5178a7c59f2d2b33c4a44"},
+			[]string{"c86d3e133194db63d4669e7698f5c8fd524c50228aa74a048ce8b0c3afac241", "0", "0"},
+			"5d1f86055c8ada6b339739af9fb85c847a13879b68ad372222be65d682fd2d1c",
+		},
+		{
+			sketch{17, 11, 4, 60, 41, 33}, 17,
+			"e157e05085e743f9aca43d4d669cd352f73fba97895ee8e80aaa0ed3bedf039b",
+			[]string{"9aa5b318369b473cbacc55881bce4ee0840723ae6c58e73b70d26bf8bf4c5740", "2e07bd57249bf9d15f34d15d17b54acc1bc24f899c7a5e124d846e6941925ec9", "6a8247287d26fc1bbc5250ffccfbd4ceb2bda1311b2eb67b295f0393b66e61af"},
+			[]string{"ada35f0ab6523929ee81ff72c90c4839855fc2984662a3611a7afc6f7fab621", "d8ae7ae7c33fdf03d21684b17c13c29d4d9334e1d675b02f874756c1ee8bdb2", "4a25e8bc9b7e2ddeac7f5cefa1e7e63ba86b1cbfb259b52e8a87891d0336f9f"},
+			"bc22099b2250846df261535a0be5a4177034d3e28177c8a818faf87236fd1a80",
+		},
+		{
+			sketch{1024, 1024, 100, 4096, 4096, 4096}, 1024,
+			"dfc625539eee962656a5bf39ad67716f435bca8102f9de62c0842ad803f6f5c4",
+			[]string{"4bed5ebb1963ee8bbd910ee63d068f76cae9fb487fe652e6229ecb8d7689d558", "cdcf44248ab1eb2ed056753f115ded852f2fc8619cf56667a7e4fee002f47551", "3ddf92f7e7f39e9943db63bbb7afd33912be6140ec29fd3b8477f522099b6451"},
+			[]string{"f7616df1a996e4b5dfafce29ef8771b95a7a2f968287404b1dc44339de9b954", "13e89a6129ebd7a3e0e286f37f40765cc30a66b760f765612b615fa9e3e3fd9", "f5a261dc32a867e3e8af47d88fc98a48fa239c59cb7fda3418c160c4cf90b19"},
+			"55b854497e268ea216d08a95265ee016313c7107b1f8965ebcba93b2f600b354",
+		},
+		{
+			sketch{1024, 1, 1, 1024, 1000, 3}, 1002,
+			"4e53aed63917c33b414f3d250354f45c665e4606fce314983befadad399252f6",
+			[]string{"1d72e560d7f4a23c8a527ba5c0265b291cdb5fd1f43127d5ea266cd6b82071b8", "b5decbbc26194eecc494a4d372ef0477ca49a313e6c1314a3a0e0f55dab2d37a", "b40230920546b587553305b0325efa06c010d68f3a763809c963256714aa10c6"},
+			[]string{"e40fc4d08cc0e5210444faaca28104e0f39a8e26d7ae6d2b61019e6437f6b7c", "0", "0"},
+			"b117c9db42b124620508464cb6ff92a9198ed08c2f69a15750c4c4480fc7cd1e",
+		},
+		{
+			sketch{1, 1024, 1024, 1024, 5, 1000}, 1,
+			"1b6eb20a176955930751d619de2d86c1618764f24d402c8edc70591c8884002a",
+			[]string{"657836d40d5db04aa479e0dbbc5794b055e03b4c2056295a77ac8e01fe4dcd87", "ecbfc018d2856900bbf5e58ec334ebe63cc24f0017c1b5578ce594247e0270a5", "b492132a05799c742076e68260009ad50ecd03af8e6791b5addd5b3061f04eff"},
+			[]string{"ae22d0cd758001f098f2e129772d1ff9426faa8d99f5c27afc14f1039ef189d", "cce277f63616e8c34807e0bcc50563d18509df1eaa9d870de4a5a89b4698cb8", "5325cd9d37237281d989e29d07fa3496f86ac1f6e2602ad44a06f5ec190ce35"},
+			"4d529e93395ad058814bdb48276e294b3f04a6b3a6727107a964b2e9db4e034d",
+		},
+	}
+}
